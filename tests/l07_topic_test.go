@@ -65,9 +65,14 @@ func withGroup(t impl.Topic, name string, acked int64) impl.Topic {
 	return t
 }
 
+// sameTopic takes an empty list and nil for the same.
+func sameTopic(a impl.Topic, b impl.Topic) bool {
+	return a.Name == b.Name && a.Base == b.Base && slices.Equal(a.Held, b.Held) && slices.Equal(a.Groups, b.Groups)
+}
+
 func topicIs(t *testing.T, what string, got impl.Topic, want impl.Topic) {
 	t.Helper()
-	if got.Name != want.Name || got.Base != want.Base || !slices.Equal(got.Held, want.Held) || !slices.Equal(got.Groups, want.Groups) {
+	if !sameTopic(got, want) {
 		t.Errorf("%s: got %s, want %s", what, shown(got), shown(want))
 	}
 }
